@@ -257,9 +257,40 @@ func ParseDoc(s string) ([]Item, bool) {
 	return list, true
 }
 
-// docReader gives up with a panic where the text goes wrong: so no step has to ask whether the one ahead of it went well.
-type docReader struct {
+// textReader gives up with a panic where the text goes wrong: so no step has to ask whether the one ahead of it went well.
+type textReader struct {
 	rest string
+}
+
+func (r *textReader) want(ok bool) {
+	if !ok {
+		panic("not as it must be written")
+	}
+}
+
+func (r *textReader) takes(mark string) bool {
+	rest, found := strings.CutPrefix(r.rest, mark)
+	r.rest = rest
+	return found
+}
+
+func (r *textReader) must(mark string) {
+	r.want(r.takes(mark))
+}
+
+// runOf answers the bytes up to the first one that does not belong.
+func (r *textReader) runOf(belongs func(b byte) bool) string {
+	n := 0
+	for n < len(r.rest) && belongs(r.rest[n]) {
+		n++
+	}
+	run := r.rest[:n]
+	r.rest = r.rest[n:]
+	return run
+}
+
+type docReader struct {
+	textReader
 	list []Item
 	open int64  // the place of the innermost element that has not ended, or -1
 	text string // what was read of a text that a remark may still go on with
@@ -271,7 +302,7 @@ func readDoc(s string) (list []Item, ok bool) {
 			list, ok = nil, false
 		}
 	}()
-	r := docReader{rest: s, open: -1}
+	r := docReader{textReader: textReader{s}, open: -1}
 	r.readAround()
 	r.must("<")
 	r.readElement()
@@ -281,22 +312,6 @@ func readDoc(s string) (list []Item, ok bool) {
 	r.readAround()
 	r.want(r.rest == "")
 	return r.list, true
-}
-
-func (r *docReader) want(ok bool) {
-	if !ok {
-		panic("no document")
-	}
-}
-
-func (r *docReader) takes(mark string) bool {
-	rest, found := strings.CutPrefix(r.rest, mark)
-	r.rest = rest
-	return found
-}
-
-func (r *docReader) must(mark string) {
-	r.want(r.takes(mark))
 }
 
 // upTo answers what stands ahead of the mark, and goes behind it.
@@ -358,13 +373,8 @@ func (r *docReader) atTagEnd() bool {
 }
 
 func (r *docReader) readName() string {
-	n := 0
-	for n < len(r.rest) && (inName(r.rest[n]) || r.rest[n] == ':') {
-		n++
-	}
-	name := r.rest[:n]
+	name := r.runOf(func(b byte) bool { return inName(b) || b == ':' })
 	r.want(qualified(name))
-	r.rest = r.rest[n:]
 	return name
 }
 
