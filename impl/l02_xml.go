@@ -87,12 +87,17 @@ func attrsOk(attrs []Attr) bool {
 }
 
 func hasAttr(attrs []Attr, name string) bool {
+	_, found := attrValue(attrs, name)
+	return found
+}
+
+func attrValue(attrs []Attr, name string) (string, bool) {
 	for _, attr := range attrs {
 		if attr.Name == name {
-			return true
+			return attr.Value, true
 		}
 	}
-	return false
+	return "", false
 }
 
 func sizeOf(item Item) int {
@@ -427,28 +432,39 @@ func KidsOf(list []Item, n int64) []int64 {
 	if !hasItem(list, n) {
 		return nil
 	}
+	return kidsBelow(list, n)
+}
+
+func TextOf(list []Item, n int64) (string, bool) {
+	if !hasElement(list, n) {
+		return "", false
+	}
+	return textBelow(list, n), true
+}
+
+// kidsBelow, and what leans on it, is for an item that is there: it does not look at the whole document.
+func kidsBelow(list []Item, n int64) []int64 {
 	var kids []int64
-	for i, item := range list {
-		if item.Up == n {
-			kids = append(kids, int64(i))
+	for i := n + 1; i < int64(len(list)) && list[i].Up >= n; i++ {
+		if list[i].Up == n {
+			kids = append(kids, i)
 		}
 	}
 	return kids
 }
 
-func TextOf(list []Item, n int64) (string, bool) {
-	if !hasItem(list, n) || list[n].Name == "" {
-		return "", false
-	}
+func textBelow(list []Item, n int64) string {
 	out := ""
-	for _, item := range list {
-		if item.Up == n {
-			out += item.Text
-		}
+	for _, kid := range kidsBelow(list, n) {
+		out += list[kid].Text
 	}
-	return out, true
+	return out
 }
 
 func hasItem(list []Item, n int64) bool {
 	return DocOk(list) && 0 <= n && n < int64(len(list))
+}
+
+func hasElement(list []Item, n int64) bool {
+	return hasItem(list, n) && list[n].Name != ""
 }
